@@ -424,10 +424,9 @@ func TestTurn(t *testing.T) {
 
 func TestRankOfAllSmall(t *testing.T) {
 	for _, size := range [][3]int{{0, 0, 3}, {0, 2, 3}, {2, 0, 3}, {1, 1, 5}, {1, 3, 4}, {3, 1, 4}, {2, 2, 5}, {2, 3, 3}, {3, 2, 3}, {3, 3, 3}} {
-		ps := grids(size[0], size[1], size[2])
-		for k := 0; k < len(ps); k += 1 + len(ps)/4000 {
-			if got := of(t, ps[k]).Rank(); got != ps[k].rank() {
-				t.Errorf("P6.1: Rank of %v is %d", ps[k], got)
+		for _, p := range grids(size[0], size[1], size[2]) {
+			if got := of(t, p).Rank(); got != p.rank() {
+				t.Errorf("P6.1: Rank of %v is %d", p, got)
 			}
 		}
 	}
@@ -494,9 +493,8 @@ func inverse(t *testing.T, p plain) {
 
 func TestInverseOfAllSmall(t *testing.T) {
 	for _, size := range [][3]int{{0, 0, 3}, {1, 1, 5}, {2, 2, 5}, {3, 3, 3}, {1, 2, 3}, {2, 1, 3}, {0, 2, 3}, {2, 0, 3}, {0, 1, 3}, {1, 0, 3}} {
-		ps := grids(size[0], size[1], size[2])
-		for k := 0; k < len(ps); k += 1 + len(ps)/4000 {
-			inverse(t, ps[k])
+		for _, p := range grids(size[0], size[1], size[2]) {
+			inverse(t, p)
 		}
 	}
 }
@@ -615,13 +613,12 @@ func solve(t *testing.T, p plain, b []*big.Rat) {
 func TestSolveOfAllSmall(t *testing.T) {
 	for _, size := range [][3]int{{1, 1, 4}, {1, 2, 4}, {2, 1, 4}, {2, 2, 4}, {3, 1, 3}, {3, 2, 3}, {2, 3, 3}, {1, 0, 3}, {2, 0, 3}, {0, 0, 3}, {0, 1, 3}, {0, 3, 3}} {
 		// The last column is the right side.
-		ps := grids(size[0], size[1]+1, size[2])
-		for k := 0; k < len(ps); k += 1 + len(ps)/3000 {
-			b, p := []*big.Rat{}, grid(size[0], size[1], func(i, j int) *big.Rat { return ps[k].at[i][j] })
-			for _, row := range ps[k].at {
+		for _, both := range grids(size[0], size[1]+1, size[2]) {
+			var b []*big.Rat
+			for _, row := range both.at {
 				b = append(b, row[size[1]])
 			}
-			solve(t, p, b)
+			solve(t, grid(size[0], size[1], func(i, k int) *big.Rat { return both.at[i][k] }), b)
 		}
 	}
 }
