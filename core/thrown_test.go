@@ -2,6 +2,7 @@ package core_test
 
 import (
 	"fmt"
+	"maps"
 	"math/big"
 	"reflect"
 	"slices"
@@ -255,13 +256,15 @@ func TestGetOfThrownFilesWithAWrongLine(t *testing.T) {
 		w := writer{dice: dice(seed + 1<<20)}
 		w.file()
 		whole := w.lines
-		for section, wrongs := range wrongLines() {
+		for _, section := range slices.Sorted(maps.Keys(wrongLines())) {
 			start, there := w.starts[section]
 			if !there {
 				continue
 			}
 			more := slices.IndexFunc(whole[start:], func(line string) bool { return line[0] != ' ' })
-			for line, e := range wrongs {
+			wrongs := wrongLines()[section]
+			for _, line := range slices.Sorted(maps.Keys(wrongs)) {
+				e := wrongs[line]
 				at := start + w.below(more+1)
 				w.lines = slices.Insert(slices.Clone(whole), at, line)
 				text, places := w.loose()
