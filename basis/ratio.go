@@ -1,13 +1,16 @@
 package basis
 
-import "victualler/frac"
+import (
+	"victualler/frac"
+	"victualler/integer"
+)
 
 // ratio is n by over, which is above 0; where n is 0, over may be anything. It
 // need not be in lowest terms: to bring each step of a sum to them would take
 // longer than the sum.
-type ratio struct{ n, over whole }
+type ratio struct{ n, over integer.Int }
 
-func one() ratio { return ratio{ofWord(false, 1), ofWord(false, 1)} }
+func one() ratio { return ratio{integer.Of(1), integer.Of(1)} }
 
 // read has nothing in common with the fractions: who has a *Frac may write over
 // it.
@@ -15,8 +18,7 @@ func read(y []*frac.Frac) []ratio {
 	list := make([]ratio, len(y))
 	for k, x := range y {
 		if x.Sign() != 0 {
-			neg, n, d := x.Parts()
-			list[k] = ratio{ofNat(neg, n), ofNat(false, d)}
+			list[k].n, list[k].over = integer.Parts(x)
 		}
 	}
 	return list
@@ -28,13 +30,13 @@ func told(list []ratio) []*frac.Frac {
 	for k, a := range list {
 		x[k] = frac.Of(0)
 		if !a.none() {
-			x[k], _ = frac.New(a.n.neg, a.n.size(), a.over.size())
+			x[k], _ = a.n.By(a.over)
 		}
 	}
 	return x
 }
 
-func (a ratio) none() bool { return a.n.none() }
+func (a ratio) none() bool { return a.n.Sign() == 0 }
 
 func (a ratio) plus(b ratio) ratio {
 	switch {
@@ -42,29 +44,29 @@ func (a ratio) plus(b ratio) ratio {
 		return b
 	case b.none():
 		return a
-	case a.over.same(b.over):
-		return ratio{a.n.plus(b.n), a.over}
+	case a.over.Cmp(b.over) == 0:
+		return ratio{a.n.Add(b.n), a.over}
 	}
-	over := a.over.multiple(b.over)
-	left, _ := over.div(a.over)
-	right, _ := over.div(b.over)
-	return ratio{a.n.times(left).plus(b.n.times(right)), over}
+	over := a.over.Lcm(b.over)
+	left, _ := over.Div(a.over)
+	right, _ := over.Div(b.over)
+	return ratio{a.n.Mul(left).Add(b.n.Mul(right)), over}
 }
 
-func (a ratio) less(b ratio) ratio { return a.plus(ratio{b.n.turned(), b.over}) }
+func (a ratio) less(b ratio) ratio { return a.plus(ratio{b.n.Neg(), b.over}) }
 
 func (a ratio) times(b ratio) ratio {
 	if a.none() || b.none() {
 		return ratio{}
 	}
-	return ratio{a.n.times(b.n), a.over.times(b.over)}
+	return ratio{a.n.Mul(b.n), a.over.Mul(b.over)}
 }
 
 // by is a by b, which is not 0.
 func (a ratio) by(b ratio) ratio {
-	n, over := a.n.times(b.over), a.over.times(b.n)
-	if over.neg {
-		return ratio{n.turned(), over.turned()}
+	n, over := a.n.Mul(b.over), a.over.Mul(b.n)
+	if over.Sign() < 0 {
+		return ratio{n.Neg(), over.Neg()}
 	}
 	return ratio{n, over}
 }
@@ -73,11 +75,11 @@ func (a ratio) lowest() ratio {
 	if a.none() {
 		return ratio{}
 	}
-	common := a.n.divisor(a.over)
-	if common.single() {
+	common := a.n.Gcd(a.over)
+	if common.Single() {
 		return a
 	}
-	n, _ := a.n.div(common)
-	over, _ := a.over.div(common)
+	n, _ := a.n.Div(common)
+	over, _ := a.over.Div(common)
 	return ratio{n, over}
 }

@@ -1,0 +1,31 @@
+package simplex
+
+import "victualler/integer"
+
+// measure is a number and some hairs. A hair is above 0, and no number of them
+// comes to any number above 0.
+type measure struct{ n, hairs integer.Int }
+
+func (m measure) sign() int {
+	if sign := m.n.Sign(); sign != 0 {
+		return sign
+	}
+	return m.hairs.Sign()
+}
+
+func (m measure) times(n integer.Int) measure { return measure{m.n.Mul(n), m.hairs.Mul(n)} }
+
+func (m measure) plus(w measure) measure { return measure{m.n.Add(w.n), m.hairs.Add(w.hairs)} }
+
+func (m measure) less(w measure) measure { return m.plus(w.turned()) }
+
+func (m measure) turned() measure { return measure{m.n.Neg(), m.hairs.Neg()} }
+
+// ease gives so many hairs to an end that has none; false: it has, or is none.
+func (m *measure) ease(hairs int64) bool {
+	if m == nil || m.hairs.Sign() != 0 {
+		return false
+	}
+	m.hairs = integer.Of(hairs)
+	return true
+}
