@@ -1,4 +1,4 @@
-package simplex
+package corner
 
 import (
 	"cmp"
@@ -23,7 +23,7 @@ func sooner(s, t stop) int {
 }
 
 // halt is where a way ends; false: nowhere.
-func (c *corner) halt(way sums, fits bool) (stop, bool) {
+func (c *Corner) halt(way sums, fits bool) (stop, bool) {
 	stops, slope := c.stops(way)
 	switch {
 	case len(stops) == 0:
@@ -42,7 +42,7 @@ func (c *corner) halt(way sums, fits bool) (stop, bool) {
 
 // stops are all that lie ahead, and how fast what the limits lack grows ahead of
 // the first of them.
-func (c *corner) stops(way sums) (stops []stop, slope integer.Int) {
+func (c *Corner) stops(way sums) (stops []stop, slope integer.Int) {
 	for k, l := range c.limits {
 		rate, near, far := way.n[k], l.low, l.up
 		if rate.Sign() == 0 {
@@ -64,7 +64,7 @@ func (c *corner) stops(way sums) (stops []stop, slope integer.Int) {
 
 // ahead is a stop at an end, its gap below 0 if it lies behind; false: there is
 // no such end.
-func (c *corner) ahead(k int, rate integer.Int, end *measure) (stop, bool) {
+func (c *Corner) ahead(k int, rate integer.Int, end *measure) (stop, bool) {
 	if end == nil {
 		return stop{}, false
 	}
@@ -76,7 +76,7 @@ func (c *corner) ahead(k int, rate integer.Int, end *measure) (stop, bool) {
 }
 
 // move goes as far as to a stop.
-func (c *corner) move(way sums, s stop) {
+func (c *Corner) move(way sums, s stop) {
 	if s.gap.sign() == 0 {
 		c.idle++
 		return

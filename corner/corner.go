@@ -1,6 +1,9 @@
-package simplex
+// Package corner goes from corner to corner of linear programs: what simplex and
+// dual have in common.
+package corner
 
 import (
+	"victualler/api"
 	"victualler/basis"
 	"victualler/frac"
 	"victualler/integer"
@@ -9,10 +12,10 @@ import (
 // patience is how many steps one behind the other may lead nowhere.
 const patience = 8
 
-// corner is where limits meet, as many as there are columns: these are held.
+// Corner is where limits meet, as many as there are columns: these are held.
 // The basis has their terms. (It might have the columns of the limits that are
 // not held; but of these there are as many as rows, and rows may be more.)
-type corner struct {
+type Corner struct {
 	program
 	basis *basis.Basis
 	held  []int       // by places of the basis
@@ -21,9 +24,12 @@ type corner struct {
 	idle  int         // how many of the last steps led nowhere
 }
 
-// start is the corner where all columns are held at an end, or at 0.
-func start(p program) *corner {
-	c := &corner{program: p, basis: basis.New(p.cols), held: make([]int, p.cols)}
+// Start is the corner of a program that may be where all columns are held at an
+// end, or at 0.
+func Start(l api.LP) *Corner { return start(read(l)) }
+
+func start(p program) *Corner {
+	c := &Corner{program: p, basis: basis.New(p.cols), held: make([]int, p.cols)}
 	x := make([]*frac.Frac, p.cols)
 	for k, l := range p.limits[:p.cols] {
 		c.hold(k, k)
@@ -35,16 +41,21 @@ func start(p program) *corner {
 			x[k], _ = end.n.By(l.terms[0].n)
 		}
 	}
-	s := p.sumsOf(x)
+	c.stand(x)
+	return c
+}
+
+// stand goes to where the columns have these numbers.
+func (c *Corner) stand(x []*frac.Frac) {
+	s := c.sumsOf(x)
 	c.over, c.at = s.over, make([]measure, len(s.n))
 	for k, n := range s.n {
 		c.at[k].n = n
 	}
-	return c
 }
 
 // hold puts a limit in a place of the basis; its terms stand alone there.
-func (c *corner) hold(place, k int) {
+func (c *Corner) hold(place, k int) {
 	col := make([]integer.Int, c.cols)
 	for _, t := range c.limits[k].terms {
 		col[t.col] = t.n
@@ -64,7 +75,7 @@ type outcome struct {
 
 // run goes from corner to corner along the edges: first to where all limits are
 // kept, then to where the costs are least.
-func (c *corner) run() outcome {
+func (c *Corner) run() outcome {
 	for {
 		if c.stuck() && c.ease() {
 			c.idle = 0
@@ -90,13 +101,13 @@ func (c *corner) run() outcome {
 // stuck tells whether something has to be done lest the steps go round. Behind
 // ease, if that could do anything, it is Bland's rule, always the first that
 // there is: it is slow, but never goes round.
-func (c *corner) stuck() bool { return c.idle > patience }
+func (c *Corner) stuck() bool { return c.idle > patience }
 
 // ease moves ends outward, each by hairs of its own, and tells whether there was
 // one to be moved. Where more limits meet than are held, steps may lead nowhere
 // and go round; now those meet a hair apart. What fits, and what shows that
 // nothing does, is so without the hairs, too, as they all go outward.
-func (c *corner) ease() bool {
+func (c *Corner) ease() bool {
 	held := make([]bool, len(c.limits))
 	for _, k := range c.held {
 		held[k] = true
@@ -104,7 +115,10 @@ func (c *corner) ease() bool {
 	some := false
 	for k, l := range c.limits {
 		if !held[k] && !l.fixed() {
-			low, up := l.low.ease(-scattered(k)), l.up.ease(scattered(k))
+			var low, up bool
+			l.low, low = l.low.eased(-scattered(k))
+			l.up, up = l.up.eased(scattered(k))
+			c.limits[k] = l
 			some = some || low || up
 		}
 	}
@@ -118,10 +132,10 @@ func scattered(k int) int64 {
 }
 
 // gap is how far a limit is below an end, times over.
-func (c *corner) gap(k int, end *measure) measure { return end.times(c.over).less(c.at[k]) }
+func (c *Corner) gap(k int, end *measure) measure { return end.times(c.over).less(c.at[k]) }
 
 // side is -1 of a limit that is below its low, 1 of one above its up, else 0.
-func (c *corner) side(k int) int {
+func (c *Corner) side(k int) int {
 	l := c.limits[k]
 	switch {
 	case l.low != nil && c.gap(k, l.low).sign() > 0:
@@ -134,7 +148,7 @@ func (c *corner) side(k int) int {
 
 // aim is what is to be less: the costs, or, as long as limits are not kept, the
 // sum of what they lack.
-func (c *corner) aim() (fits bool, aim []integer.Int) {
+func (c *Corner) aim() (fits bool, aim []integer.Int) {
 	fits, aim = true, make([]integer.Int, c.cols)
 	for k, l := range c.limits {
 		side := c.side(k)
@@ -155,7 +169,7 @@ func (c *corner) aim() (fits bool, aim []integer.Int) {
 // choose is the place of a held limit that is to be left, its price telling
 // where to; -1: none. Of all that may be left it is the one that is dearest for
 // the same distance from it: so a row's factor makes no difference.
-func (c *corner) choose(prices []*frac.Frac) int {
+func (c *Corner) choose(prices []*frac.Frac) int {
 	best, most := -1, frac.Of(0)
 	for place, price := range prices {
 		k := c.held[place]
@@ -171,7 +185,7 @@ func (c *corner) choose(prices []*frac.Frac) int {
 }
 
 // free tells whether a held limit may go that way, which is 1 or -1.
-func (c *corner) free(k, sign int) bool {
+func (c *Corner) free(k, sign int) bool {
 	l := c.limits[k]
 	switch sign {
 	case 1:
@@ -183,7 +197,7 @@ func (c *corner) free(k, sign int) bool {
 }
 
 // away is the way on which one held limit goes up or down, and no other.
-func (c *corner) away(place, sign int) sums {
+func (c *Corner) away(place, sign int) sums {
 	unit := make([]*frac.Frac, c.cols)
 	unit[place] = frac.Of(int64(sign))
 	return c.sumsOf(c.basis.Turned(unit))

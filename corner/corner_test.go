@@ -1,4 +1,4 @@
-package simplex
+package corner
 
 import (
 	"slices"
@@ -57,7 +57,7 @@ func TestEase(t *testing.T) {
 			{Kind: api.REqual, Rhs: "1", Coef: []api.Coef{{Col: 1, V: "1"}}},
 		},
 	}
-	hairs := func(c *corner) (signs []int) {
+	hairs := func(c *Corner) (signs []int) {
 		for _, m := range c.limits {
 			for _, end := range []*measure{m.low, m.up} {
 				if end == nil {
@@ -101,7 +101,7 @@ func TestScattered(t *testing.T) {
 func abs(n int64) int64 { return max(n, -n) }
 
 // byBland goes all the way by Bland's rule, without hairs; -1: it does not end.
-func byBland(c *corner) (status int, prices []*frac.Frac) {
+func byBland(c *Corner) (status int, prices []*frac.Frac) {
 	for range 20_000 {
 		c.idle = patience + 1
 		fits, aim := c.aim()
@@ -163,10 +163,7 @@ func TestBland(t *testing.T) {
 		if d.below(4) == 0 {
 			l.Cols[0].Up = ""
 		}
-		want, ok := Solve(l)
-		if !ok {
-			t.Fatalf("Solve says no to %v", l)
-		}
+		want := Start(l).Solve()
 		c := start(read(l))
 		status, prices := byBland(c)
 		if status != want.Status {
@@ -175,7 +172,7 @@ func TestBland(t *testing.T) {
 		seen[status]++
 		switch status {
 		case api.SOptimal:
-			if a := c.optimal(l, prices); a.Value != want.Value {
+			if a := c.optimal(prices); a.Value != want.Value {
 				t.Errorf("by Bland's rule Value is %s, not %s", a.Value, want.Value)
 			}
 		case api.SInfeasible:

@@ -1,4 +1,4 @@
-package simplex
+package corner
 
 import (
 	"victualler/api"

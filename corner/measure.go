@@ -1,4 +1,4 @@
-package simplex
+package corner
 
 import "victualler/integer"
 
@@ -21,11 +21,18 @@ func (m measure) less(w measure) measure { return m.plus(w.turned()) }
 
 func (m measure) turned() measure { return measure{m.n.Neg(), m.hairs.Neg()} }
 
-// ease gives so many hairs to an end that has none; false: it has, or is none.
-func (m *measure) ease(hairs int64) bool {
+// eased is an end with so many hairs; false: it has some, or is none.
+func (m *measure) eased(hairs int64) (*measure, bool) {
 	if m == nil || m.hairs.Sign() != 0 {
-		return false
+		return m, false
 	}
-	m.hairs = integer.Of(hairs)
-	return true
+	return &measure{m.n, integer.Of(hairs)}, true
+}
+
+// bare is an end without hairs.
+func (m *measure) bare() *measure {
+	if m == nil || m.hairs.Sign() == 0 {
+		return m
+	}
+	return &measure{n: m.n}
 }
