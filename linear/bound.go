@@ -1,4 +1,4 @@
-package prob
+package linear
 
 import (
 	"victualler/api"
@@ -6,22 +6,23 @@ import (
 	"victualler/vec"
 )
 
-// Bound: see the chapter.
-func Bound(l api.LP, dual []string, costs bool) (string, bool) {
-	p, okL := read(l)
-	y, okY := numbers(dual, len(p.rows))
-	if !okL || !okY || !p.signed(y) {
-		return "", false
+// Bound is what the rows, each by its number, show that no point that fits is
+// worth less than (with costs), or that is above 0 only if none fits (without);
+// false: no such numbers, or no such bound.
+func (p Program) Bound(dual []string, costs bool) (*frac.Frac, bool) {
+	y, ok := numbers(dual, len(p.rows))
+	if !ok || !p.signed(y) {
+		return nil, false
 	}
 	sum, ok := p.least(p.left(y, costs))
 	if !ok {
-		return "", false
+		return nil, false
 	}
-	return sum.Add(p.rhs.Dot(y)).Text(), true
+	return sum.Add(p.rhs.Dot(y)), true
 }
 
 // signed tells whether each row has a number of a sign that its kind takes.
-func (p program) signed(y *vec.Vec) bool {
+func (p Program) signed(y *vec.Vec) bool {
 	for k, r := range p.rows {
 		sign := y.At(k).Sign()
 		if r.kind == api.RLess && sign > 0 || r.kind == api.RMore && sign < 0 {
@@ -32,7 +33,7 @@ func (p program) signed(y *vec.Vec) bool {
 }
 
 // left is what the rows, each by its number, leave of the costs.
-func (p program) left(y *vec.Vec, costs bool) *vec.Vec {
+func (p Program) left(y *vec.Vec, costs bool) *vec.Vec {
 	var d *vec.Vec
 	if costs {
 		d = p.costs
@@ -45,7 +46,7 @@ func (p program) left(y *vec.Vec, costs bool) *vec.Vec {
 
 // least is the sum of d by the columns where that is least within their
 // bounds; false: it has no least.
-func (p program) least(d *vec.Vec) (*frac.Frac, bool) {
+func (p Program) least(d *vec.Vec) (*frac.Frac, bool) {
 	sum := frac.Of(0)
 	for k, c := range p.cols {
 		share, end := d.At(k), c.low

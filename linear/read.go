@@ -1,4 +1,6 @@
-package prob
+// Package linear has linear programs that may be, their texts read once: what
+// prob and leaf have in common.
+package linear
 
 import (
 	"victualler/api"
@@ -6,8 +8,8 @@ import (
 	"victualler/vec"
 )
 
-// program is a linear program that may be, its texts read.
-type program struct {
+// Program is a linear program that may be.
+type Program struct {
 	cols  []column
 	rows  []row
 	costs *vec.Vec // by columns
@@ -25,24 +27,24 @@ type row struct {
 	coefs *vec.Vec
 }
 
-// read reads a program; false: it may not be.
-func read(l api.LP) (program, bool) {
+// Read reads a program; false: it may not be.
+func Read(l api.LP) (Program, bool) {
 	if len(l.Cols) > api.MaxWide || len(l.Rows) > api.MaxTall {
-		return program{}, false
+		return Program{}, false
 	}
-	var p program
+	var p Program
 	var costs, rhs []string
 	for _, c := range l.Cols {
 		col, ok := readCol(c)
 		if !ok {
-			return program{}, false
+			return Program{}, false
 		}
 		p.cols, costs = append(p.cols, col), append(costs, c.Cost)
 	}
 	for _, r := range l.Rows {
 		one, ok := readRow(r, len(l.Cols))
 		if !ok {
-			return program{}, false
+			return Program{}, false
 		}
 		p.rows, rhs = append(p.rows, one), append(rhs, r.Rhs)
 	}
@@ -50,7 +52,7 @@ func read(l api.LP) (program, bool) {
 	p.costs, okCosts = numbers(costs, len(costs))
 	p.rhs, okRhs = numbers(rhs, len(rhs))
 	if !okCosts || !okRhs {
-		return program{}, false
+		return Program{}, false
 	}
 	return p, true
 }
@@ -58,10 +60,11 @@ func read(l api.LP) (program, bool) {
 func readCol(c api.Col) (column, bool) {
 	low, okLow := readEnd(c.Low)
 	up, okUp := readEnd(c.Up)
-	if !okLow || !okUp || low != nil && up != nil && low.Cmp(up) > 0 {
+	col := column{low, up, c.Int}
+	if !okLow || !okUp || col.crosses() {
 		return column{}, false
 	}
-	return column{low, up, c.Int}, true
+	return col, true
 }
 
 // readEnd reads a bound, nil if it is none.
@@ -71,6 +74,9 @@ func readEnd(s string) (*frac.Frac, bool) {
 	}
 	return frac.Get(s)
 }
+
+// crosses tells whether the low one of two bounds is above the other.
+func (c column) crosses() bool { return c.low != nil && c.up != nil && c.low.Cmp(c.up) > 0 }
 
 // readRow reads a row of so many columns, but its right side.
 func readRow(r api.Row, cols int) (row, bool) {
@@ -109,3 +115,6 @@ func numbers(texts []string, count int) (*vec.Vec, bool) {
 	}
 	return vec.New(cs...)
 }
+
+// Point reads a number for each column.
+func (p Program) Point(x []string) (*vec.Vec, bool) { return numbers(x, len(p.cols)) }
